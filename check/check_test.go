@@ -124,6 +124,7 @@ func TestRecipe(t *testing.T) {
 		{one + "package b\nversion 1\nvariant x on\npackage c\nversion 1\ndepends b when x=on", api.BadSetting, 8},
 		{one + "conflicts x=on", api.BadSetting, 3},
 		{one + "conflicts * with z", api.Unknown, 3},
+		{one + "conflicts *\nconflicts * with a\nconflicts * with z", api.Unknown, 5},
 		{one + "conflicts x=on with z", api.BadSetting, 3},
 		{one + "provides v\nconflicts * with v", api.Unknown, 4},
 		{one + "conflicts * with a@1: x=on", api.BadSetting, 3},
@@ -220,13 +221,13 @@ func TestRequest(t *testing.T) {
 func TestNames(t *testing.T) {
 	x := read(t, fine)
 	x.Packages = append(x.Packages, x.Packages[0])
-	x.Packages[3].Provides = []string{"b", "v", "v"}
+	x.Packages[3].Provides = []string{"b", "v", "v", "a"}
 	for name, want := range map[string]int{"a": 0, "b": 1, "c": 2, "v": -1, "": -1, "z": -1} {
 		if n := check.Find(x, name); n != want {
 			t.Errorf("Find(%q) = %d", name, n)
 		}
 	}
-	for name, want := range map[string][]int{"v": {1, 2, 3}, "w": {1}, "b": {3}, "a": nil, "": nil, "z": nil} {
+	for name, want := range map[string][]int{"v": {1, 2, 3}, "w": {1}, "b": {3}, "a": {3}, "": nil, "z": nil} {
 		if l := check.Providers(x, name); !slices.Equal(l, want) {
 			t.Errorf("Providers(%q) = %v", name, l)
 		}

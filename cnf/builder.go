@@ -37,9 +37,6 @@ func (b *Builder) Most(l ...int) {
 	if b == nil {
 		return
 	}
-	if len(l) > 1 && !allLiterals(l) {
-		b.bad = true
-	}
 	for i := range l {
 		for k := i + 1; k < len(l); k++ {
 			b.Add(-l[i], -l[k])

@@ -85,6 +85,10 @@ func TestClauses(t *testing.T) {
 			"package a\nversion 1\nversion 2\nversion 3\nvariant x on off\nvariant y 1 2\n", "root a@2: x=off y=1",
 			"-C0 M0.0.1; -H0 R0.1 R0.2; -R0.1 H0; -R0.2 H0; -M0.0.1 N0; -M0.0.1 H0; -M0.0.1 V0.0.1; -M0.0.1 V0.1.0; -H0 -N0 -V0.0.1 -V0.1.0 M0.0.1; -N0 C0",
 		},
+		{ // Variants that have the same values.
+			"package a\nversion 1\nvariant w on off\nvariant x on off\n", "root a x=off",
+			"-C0 M0.0.1; -M0.0.1 N0; -M0.0.1 V0.1.1; -N0 -V0.1.1 M0.0.1; -N0 C0",
+		},
 		{ // A root that no release is as asked for.
 			"package a\nversion 1\n", "root a@2",
 			"-C0 M0.0.1; -H0; -M0.0.1 N0; -M0.0.1 H0; -H0 -N0 M0.0.1; -N0 C0",

@@ -194,7 +194,15 @@ func TestRead(t *testing.T) {
 	if got := fmt.Sprint(f.Read(all)); !strings.HasPrefix(got, "{[{b 1 [] [k m]} {k 1 [] []} {m 1 [] []} {z 1 [{y 1} {x on}] [b k m]}]}") {
 		t.Error(got)
 	}
-	f.Read([]bool{true, true})
+	// A package without a release and a value that are so, and a model that ends early.
+	if got := fmt.Sprint(f.Read(model(f, api.Atom{Kind: api.NodeAtom, A: 0}))); got != "{[{z  [] []}]}" {
+		t.Error(got)
+	}
+	for n, want := range []string{"{[]}", "{[{z  [] []}]}", "{[{z 1 [] []}]}"} {
+		if got := fmt.Sprint(f.Read(all[:n])); got != want {
+			t.Errorf("%s, not %s", got, want)
+		}
+	}
 }
 
 func TestOneGraph(t *testing.T) {
