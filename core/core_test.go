@@ -137,9 +137,10 @@ func TestSpent(t *testing.T) {
 		t.Fatal(whole.State, len(whole.Core), err)
 	}
 	spent := true
+	enough := 0
 	for budget := -2; spent; budget++ {
 		why, err := core.Why(x, q, api.MaxAtoms, budget)
-		spent = why.State == api.Spent
+		spent, enough = why.State == api.Spent, budget
 		if err != api.OK || spent && !same(why, api.Reason{State: api.Spent}) || !spent && !same(why, whole) || budget < 1 && !spent {
 			t.Fatalf("of the budget %d: %v, %v", budget, why.State, err)
 		}
@@ -153,7 +154,8 @@ func TestSpent(t *testing.T) {
 			t.Errorf("of the budget %d: %v, %v", budget, state, err)
 		}
 	}
-	if state, err := core.Admits(x, q, all, api.MaxAtoms, 1<<20); err != api.OK || state != api.Unsat {
+	// What is enough to ask whether all admit one is not enough for that and all that is asked behind it.
+	if state, err := core.Admits(x, q, all, api.MaxAtoms, enough-1); err != api.OK || state != api.Unsat {
 		t.Error(state, err)
 	}
 }

@@ -87,6 +87,7 @@ func TestOf(t *testing.T) {
 		{"what is needed when", "root a", []api.Node{node("a", "1", off...), node("b", "5")}, api.Cost{1, 2, 2, 1, 0, 2}},
 		{"two names of one", "root a", []api.Node{node("a", "3", off...), node("b", "5")}, api.Cost{1, 0, 2, 2, 0, 2}},
 		{"a name once", "root v\nroot v\nroot a", []api.Node{node("a", "3", off...), node("b", "5")}, api.Cost{1, 0, 2, 2, 0, 2}},
+		{"a name once, whatever stands between", "root v\nroot u\nroot v", []api.Node{node("b", "4")}, api.Cost{0, 1, 0, 2, 0, 1}},
 		{"the one that is preferred", "root a", []api.Node{node("a", "1", off...), node("c", "2")}, api.Cost{0, 2, 2, 0, 0, 2}},
 		{"roots by virtual names", "root w\nroot u", []api.Node{node("far", "1"), node("b", "4")}, api.Cost{0, 1, 0, 1, 0, 2}},
 		{"no package's", "root a", []api.Node{node("z", "1", "x", "off"), node("a", "3", on...)}, api.Cost{0, 0, 0, 0, 0, 2}},

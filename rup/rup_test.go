@@ -144,6 +144,7 @@ func TestProves(t *testing.T) {
 		{nil, []int{1, 2}, false},
 		{[]api.Step{gone(1, 2)}, []int{1, 2}, false},
 		{[]api.Step{step(2), step(1)}, []int{2}, false},
+		{[]api.Step{step(1), step(2)}, []int{2}, false},
 		{[]api.Step{step(2), step(0)}, []int{2}, false},
 		{[]api.Step{step(2), gone(5)}, []int{2}, false},
 	}

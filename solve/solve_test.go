@@ -241,6 +241,9 @@ func TestNoLiteral(t *testing.T) {
 			if a.State != api.Unsat || !slices.Equal(a.Core, []int{l}) || len(a.Model) != 0 || len(s.Proof()) != 0 {
 				t.Errorf("Solve of %d: %v, %v", l, a, s.Proof())
 			}
+			if a := s.Solve([]int{l}, 100); a.State != api.Unsat || !slices.Equal(a.Core, []int{l}) || len(s.Proof()) != 0 {
+				t.Errorf("Solve of just %d: %v, %v", l, a, s.Proof())
+			}
 		}
 	}
 }

@@ -316,9 +316,9 @@ func TestClashIsTheLeastFile(t *testing.T) {
 		t.Error(links, clash, ok)
 	}
 	// A file that a package has twice is one.
-	x.Packages[0].Files = []string{"k", "k"}
+	x.Packages[0].Files = []string{"k", "j", "k"}
 	x.Packages[1].Files = nil
-	if links, clash, ok := store.Environment(x, q, nodes("a 1; b 1")); len(links) != 1 || clash != "" || !ok {
+	if links, clash, ok := store.Environment(x, q, nodes("a 1; b 1")); len(links) != 2 || links[0].File != "j" || clash != "" || !ok {
 		t.Error(links, clash, ok)
 	}
 }
